@@ -24,7 +24,7 @@ func Of(text string) (int, error) {
 
 // Two measures.
 func Two(a, b int) (int, error) {
-	if !isMeasure(a) || !isMeasure(b) {
+	if !Is(a) || !Is(b) {
 		return 0, api.ErrRange
 	}
 	return step(a, rowStep, b), nil
@@ -52,4 +52,5 @@ func row(numbers ...int) (int, error) {
 // step adds 1 so that a nought that is added is told from nothing added.
 func step(m, times, n int) int { return (times*m + n + 1) % api.Modulo }
 
-func isMeasure(n int) bool { return n >= 0 && n < api.Modulo }
+// Is it a measure? Exported, as other layers bound their numbers by it.
+func Is(n int) bool { return n >= 0 && n < api.Modulo }

@@ -167,3 +167,14 @@ func TestAllLeavesTheList(t *testing.T) {
 		t.Errorf("the list was %v, and is %v", was, whole)
 	}
 }
+
+func TestIs(t *testing.T) {
+	for n, want := range map[int]bool{
+		0: true, 1: true, last: true,
+		-1: false, api.Modulo: false, math.MinInt: false, math.MaxInt: false,
+	} {
+		if Is(n) != want {
+			t.Errorf("Is %d a measure: got %v, want %v", n, !want, want)
+		}
+	}
+}
