@@ -174,6 +174,25 @@ func TestCheckOfWrongNumbers(t *testing.T) {
 	}
 }
 
+func TestHold(t *testing.T) {
+	for _, c := range []struct {
+		public, m, point, answer int
+		want                     api.Errno
+	}{
+		{527, 355, 1478, 178, api.OK},
+		{1542, 0, 1, 0, api.OK},
+		{527, 356, 1478, 178, api.ErrSeal},
+		{527, 355, 1478, 179, api.ErrSeal},
+		{64, 355, 1478, 178, api.ErrSeal},
+		{0, 355, 1478, 178, api.ErrRange},
+		{527, api.Modulo, 1478, 178, api.ErrRange},
+		{527, 355, api.Group, 178, api.ErrRange},
+		{527, 355, 1478, api.Order, api.ErrRange},
+	} {
+		expect(t, "Hold", c.m, Hold(c.public, c.m, api.Seal{Point: c.point, Answer: c.answer}), c.m, c.want)
+	}
+}
+
 func TestIsSecretAndIsPublic(t *testing.T) {
 	for n := -2; n < api.Group+2; n++ {
 		if IsSecret(n) != (n >= 1 && n <= 256) || IsPublic(n) != (n >= 1 && n <= 1542) {
