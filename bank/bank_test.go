@@ -240,3 +240,16 @@ func TestSameWrong(t *testing.T) {
 		}
 	}
 }
+
+func TestIsRegisterAndIsMask(t *testing.T) {
+	for n := -2; n < 515; n++ {
+		if IsRegister(n) != (n >= 0 && n <= 7) || IsMask(n) != (n >= 0 && n <= 255) {
+			t.Errorf("%d: IsRegister %v, IsMask %v", n, IsRegister(n), IsMask(n))
+		}
+	}
+	for _, n := range noMasks() {
+		if IsMask(n) {
+			t.Errorf("%d is a mask", n)
+		}
+	}
+}
