@@ -250,3 +250,24 @@ func TestNewer(t *testing.T) {
 		expect(t, "Newer", got, err, c.want, c.err)
 	}
 }
+
+func TestIsNameAndIsVersion(t *testing.T) {
+	for _, c := range right() {
+		if !IsName(c.image.Name) {
+			t.Errorf("%q is no name", c.image.Name)
+		}
+	}
+	for _, s := range []string{"", nine, strings.Repeat("a", 5000), "A", "`", "{", "b0", "é", "\xff", "abcdefgH"} {
+		if IsName(s) {
+			t.Errorf("%q is a name", s)
+		}
+	}
+	for n := -3; n < 1100; n++ {
+		if IsVersion(n) != (n >= 1 && n <= 1000) {
+			t.Errorf("%d: IsVersion %v", n, IsVersion(n))
+		}
+	}
+	if IsVersion(math.MinInt) || IsVersion(math.MaxInt) {
+		t.Errorf("a number at an end of int is a version")
+	}
+}
