@@ -92,6 +92,13 @@ func expectGood(t *testing.T, s *Slots, want api.Errno) {
 	expectErr(t, "Good", s.Good(), want)
 }
 
+func expectGoodOne(t *testing.T, s *Slots, version int) {
+	t.Helper()
+	if got := s.GoodOne(); got != signed(version) {
+		t.Errorf("GoodOne: got %v; want %v", got, signed(version))
+	}
+}
+
 func expectErr(t *testing.T, call string, err error, want api.Errno) {
 	t.Helper()
 	if plain.Told(err) != want || err != nil && want == api.OK {
@@ -269,6 +276,22 @@ func TestToAndFro(t *testing.T) {
 	}
 }
 
+// TestGoodOne: it is the one that is good, not the one that runs or would be started; and asking changes nothing.
+func TestGoodOne(t *testing.T) {
+	s := made(t, signed(5))
+	expectGoodOne(t, s, 5)
+	expectPut(t, s, signed(6), api.OK)
+	expectGoodOne(t, s, 5)
+	for tries := 2; tries >= 0; tries-- {
+		expectStart(t, s, 6)
+		expectGoodOne(t, s, 5)
+		expectAll(t, s, min(tries, 1), good(5), trial(6, tries))
+	}
+	expectGood(t, s, api.OK)
+	expectGoodOne(t, s, 6)
+	expectAll(t, s, 1, empty(), good(6))
+}
+
 // TestFromSlotOne: what falls back may fall back to slot 1 as well.
 func TestFromSlotOne(t *testing.T) {
 	s := made(t, signed(5))
@@ -305,6 +328,7 @@ func TestPickOfTwoGood(t *testing.T) {
 		if got := s.Pick(); got != runs {
 			t.Errorf("Pick: got %d; want %d", got, runs)
 		}
+		expectGoodOne(t, s, 5+runs)
 		expectStart(t, s, 5+runs)
 		expectAll(t, s, runs, good(5), good(6))
 	}
@@ -360,7 +384,7 @@ func TestTextsAreFresh(t *testing.T) {
 	for range 3 {
 		zero, _ := s.At(0)
 		one, _ := s.At(1)
-		out = append(out, zero.Signed.Image, one.Signed.Image, s.Start().Image)
+		out = append(out, zero.Signed.Image, one.Signed.Image, s.GoodOne().Image, s.Start().Image)
 	}
 	for _, m := range out {
 		add(m)
@@ -430,6 +454,7 @@ func TestEachRow(t *testing.T) {
 		for i := range 8 {
 			m = m.play(t, s, row>>(2*i)&3, i+2)
 			expectAll(t, s, m.pick(), m.slots()...)
+			expectGoodOne(t, s, m.good)
 		}
 		if t.Failed() {
 			t.Fatalf("row %016b", row)
@@ -445,6 +470,7 @@ func TestLongRows(t *testing.T) {
 			state = state*1664525 + 1013904223
 			m = m.play(t, s, int(state>>16)&3, i+2)
 			expectAll(t, s, m.pick(), m.slots()...)
+			expectGoodOne(t, s, m.good)
 		}
 	}
 }
