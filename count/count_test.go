@@ -330,6 +330,25 @@ func TestNameIsNotKept(t *testing.T) {
 	}
 }
 
+// TestWould: it tells what Raise answers then, and nothing is another one for it.
+func TestWould(t *testing.T) {
+	names := append(noNames(), append(twelve(), "stranger")...)
+	for _, make := range []func() *Counts{New, func() *Counts { return full(t) }} {
+		for _, name := range names {
+			for _, v := range append(noVersions(), 0, 1, 5, 6, 16, 17, 1000) {
+				c := make()
+				would, wouldErr := c.Would(name, v)
+				if len(c.least) != len(make().least) || c.least[name] != make().least[name] {
+					t.Errorf("Would(%q, %d) changes something", name, v)
+				}
+				if is, err := c.Raise(name, v); would != is || plain.Told(wouldErr) != plain.Told(err) {
+					t.Errorf("Would(%q, %d): got %v, %v; Raise: %v, %v", name, v, would, wouldErr, is, err)
+				}
+			}
+		}
+	}
+}
+
 // TestManyCalls holds a long row of calls against a plain list of what each name is at.
 func TestManyCalls(t *testing.T) {
 	names := append(twelve(), "c", "d", "e", "f")
