@@ -271,3 +271,40 @@ func TestIsNameAndIsVersion(t *testing.T) {
 		t.Errorf("a number at an end of int is a version")
 	}
 }
+
+// TestNumber: up to a bound of digits, and only as it would be printed.
+func TestNumber(t *testing.T) {
+	for _, c := range []struct {
+		digits string
+		most   int
+		want   int
+		err    api.Errno
+	}{
+		{"0", 1, 0, api.OK},
+		{"9", 1, 9, api.OK},
+		{"10", 1, 0, api.ErrSyntax},
+		{"1000", 4, 1000, api.OK},
+		{"10000", 4, 0, api.ErrSyntax},
+		{"9999999", 7, 9999999, api.OK},
+		{"10000000", 7, 0, api.ErrSyntax},
+		{"1", 7, 1, api.OK},
+		{"", 7, 0, api.ErrSyntax},
+		{"", 0, 0, api.ErrSyntax},
+		{"1", 0, 0, api.ErrSyntax},
+		{"1", -1, 0, api.ErrSyntax},
+		{"00", 7, 0, api.ErrSyntax},
+		{"01", 7, 0, api.ErrSyntax},
+		{"-1", 7, 0, api.ErrSyntax},
+		{"+1", 7, 0, api.ErrSyntax},
+		{"-0", 7, 0, api.ErrSyntax},
+		{"1_0", 7, 0, api.ErrSyntax},
+		{"1x", 7, 0, api.ErrSyntax},
+		{" 1", 7, 0, api.ErrSyntax},
+		{"9223372036854775807", 30, math.MaxInt, api.OK},
+		{"9223372036854775808", 30, 0, api.ErrSyntax},
+		{strings.Repeat("9", 5000), math.MaxInt, 0, api.ErrSyntax},
+	} {
+		got, err := Number(c.digits, c.most)
+		expect(t, "Number of "+c.digits, got, err, c.want, c.err)
+	}
+}
